@@ -1,6 +1,7 @@
 package lend_test
 
 import (
+	"iter"
 	"math"
 	"slices"
 	"strconv"
@@ -288,6 +289,23 @@ func slowClash(t api.Tale, fits bool) (int, api.Errno) {
 		}
 	}
 	return len(t.Looks), api.OK
+}
+
+// orders yields a list in each of its orders.
+func orders[T any](l []T) iter.Seq[[]T] {
+	return func(yield func([]T) bool) {
+		if len(l) == 0 {
+			yield(nil)
+			return
+		}
+		for i, first := range l {
+			for others := range orders(slices.Delete(slices.Clone(l), i, i+1)) {
+				if !yield(append([]T{first}, others...)) {
+					return
+				}
+			}
+		}
+	}
 }
 
 func copyTale(t api.Tale) api.Tale {

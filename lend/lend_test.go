@@ -1,6 +1,7 @@
 package lend_test
 
 import (
+	"slices"
 	"testing"
 
 	"jigworks/api"
@@ -168,6 +169,30 @@ func TestClash(t *testing.T) {
 	} {
 		if n, e := lend.Clash(x); n != 0 || e != api.ErrNone {
 			t.Errorf("%d: Clash = %d, error %d", i, n, e)
+		}
+	}
+}
+
+// P8.7, P9, P13: reports in every order; of two looks that cannot both be true, the later one is returned.
+func TestEveryOrder(t *testing.T) {
+	was := ask(example("- 1 -", ""), []int{9, 19, 25, 40})
+	refuted := example("- 1 -", "25:a")
+	for loans := range orders(example("- 1 -", "").Loans) {
+		x := example("- 1 -", "")
+		x.Loans = loans
+		for looks := range orders(x.Looks) {
+			x.Looks = looks
+			if a := ask(x, []int{9, 19, 25, 40}); !a.equal(was) {
+				t.Errorf("%v: %v, not %v", x, a, was)
+			}
+		}
+	}
+	for looks := range orders(refuted.Looks) {
+		x := refuted
+		x.Looks = looks
+		want := max(slices.Index(looks, refuted.Looks[1]), slices.Index(looks, refuted.Looks[3]))
+		if n, e := lend.Clash(x); n != want || e != api.OK {
+			t.Errorf("%v: Clash = %d, error %d", x, n, e)
 		}
 	}
 }
